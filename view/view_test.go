@@ -363,7 +363,7 @@ func noCell(t *testing.T, v api.View, numbers []int) {
 	}
 }
 
-// Promise 22.1: the steps where dims are not 1, and the cells one by one.
+// Promise 22.1: the steps, and the cells one by one.
 func TestWhole(t *testing.T) {
 	for _, c := range []struct{ d, steps []int }{
 		{nil, nil}, {[]int{}, nil}, {[]int{1}, []int{1}}, {[]int{5}, []int{1}}, {[]int{64}, []int{1}}, {[]int{2, 3}, []int{3, 1}}, {[]int{3, 2}, []int{2, 1}}, {[]int{1, 3}, []int{3, 1}},
